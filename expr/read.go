@@ -2,7 +2,7 @@ package expr
 
 import (
 	"quarry/api"
-	"quarry/catalog"
+	"quarry/tokens"
 )
 
 // line reads what a line of the grammar says, from the reader's place on.
@@ -11,14 +11,13 @@ type line func() api.Expr
 // reader goes through tokens from the left on; it throws a fault at the first
 // one that does not fit.
 type reader struct {
-	list    []api.Token
-	at      int
+	tokens.Reader
 	nesting int
 	or      line // the whole grammar, which stands within brackets, too
 }
 
 func newReader(list []api.Token, at int) *reader {
-	r := &reader{list: list, at: at}
+	r := &reader{Reader: tokens.Reader{List: list, At: at}}
 	sign := r.ahead(lineSign, r.item)
 	prod := r.row(lineProd, sign)
 	sum := r.row(lineSum, prod)
@@ -45,7 +44,7 @@ func (r *reader) row(number int, part line) line {
 func (r *reader) test(part line) line {
 	return func() api.Expr {
 		e := part()
-		if r.take(api.TWord, "is") {
+		if r.Take(api.TWord, "is") {
 			return api.Expr{Kind: api.ENull, Op: r.nullness(), Args: []api.Expr{e}}
 		}
 		if o, ok := r.operator(lineTest); ok {
@@ -74,31 +73,31 @@ func (r *reader) ahead(number int, part line) line {
 // with is what an operator at the reader's place makes of what stands ahead of
 // it and the part behind it.
 func (r *reader) with(o operator, left api.Expr, part line) api.Expr {
-	r.at++
+	r.At++
 	return api.Expr{Kind: o.kind, Op: o.op, Args: []api.Expr{left, part()}}
 }
 
 func (r *reader) nullness() int {
 	op := isNull
-	if r.take(api.TWord, "not") {
+	if r.Take(api.TWord, "not") {
 		op = isNotNull
 	}
-	r.must(api.TWord, "null")
+	r.Must(api.TWord, "null")
 	return op
 }
 
 func (r *reader) item() api.Expr {
-	if r.stands(api.TSymbol, "(") {
+	if r.Stands(api.TSymbol, "(") {
 		var e api.Expr
 		r.brackets(func() { e = r.or() })
 		return e
 	}
-	if v, ok := literal(r.token(0)); ok {
-		r.at++
+	if v, ok := literal(r.Token(0)); ok {
+		r.At++
 		return api.Expr{Kind: api.ELit, Value: v}
 	}
 	if c, ok := r.call(); ok {
-		r.at++
+		r.At++
 		return r.called(c)
 	}
 	return r.column()
@@ -129,7 +128,7 @@ func literal(t api.Token) (api.Value, bool) {
 // call is the function or the aggregate whose name stands at the reader's
 // place; without a ( behind it, it would be a column's.
 func (r *reader) call() (call, bool) {
-	name, next := r.token(0), r.token(1)
+	name, next := r.Token(0), r.Token(1)
 	if name.Kind != api.TWord || next.Kind != api.TSymbol || next.Text != "(" {
 		return call{}, false
 	}
@@ -140,7 +139,7 @@ func (r *reader) call() (call, bool) {
 func (r *reader) called(c call) api.Expr {
 	e := api.Expr{Kind: c.kind, Op: c.op}
 	r.brackets(func() {
-		if c.counts() && r.take(api.TSymbol, "*") {
+		if c.counts() && r.Take(api.TSymbol, "*") {
 			return
 		}
 		e.Args = r.operands(c.operands)
@@ -151,90 +150,43 @@ func (r *reader) called(c call) api.Expr {
 func (r *reader) operands(count int) []api.Expr {
 	list := []api.Expr{r.or()}
 	for len(list) < count {
-		r.must(api.TSymbol, ",")
+		r.Must(api.TSymbol, ",")
 		list = append(list, r.or())
 	}
 	return list
 }
 
 func (r *reader) column() api.Expr {
-	first := r.name()
-	if !r.take(api.TSymbol, ".") {
+	first := r.Name()
+	if !r.Take(api.TSymbol, ".") {
 		return api.Expr{Kind: api.ECol, Name: first}
 	}
-	return api.Expr{Kind: api.ECol, Table: first, Name: r.name()}
-}
-
-func (r *reader) name() string {
-	t := r.token(0)
-	if t.Kind != api.TWord || catalog.Name(t.Text) != api.OK {
-		r.throw(api.ErrSyntax)
-	}
-	r.at++
-	return t.Text
+	return api.Expr{Kind: api.ECol, Table: first, Name: r.Name()}
 }
 
 // brackets reads what is within the ( at the reader's place, and its ).
 func (r *reader) brackets(within func()) {
 	r.deeper()
 	within()
-	r.must(api.TSymbol, ")")
+	r.Must(api.TSymbol, ")")
 	r.nesting--
 }
 
 // deeper goes past a token behind which the nesting is one more.
 func (r *reader) deeper() {
 	if r.nesting == api.MaxDepth {
-		r.throw(api.ErrDepth)
+		panic(r.Fault(api.ErrDepth))
 	}
 	r.nesting++
-	r.at++
+	r.At++
 }
 
 // operator is that of the line's operators which stands at the reader's place.
 func (r *reader) operator(number int) (operator, bool) {
 	for _, o := range operators {
-		if o.line == number && r.stands(o.token, o.text) {
+		if o.line == number && r.Stands(o.token, o.text) {
 			return o, true
 		}
 	}
 	return operator{}, false
-}
-
-// token is that which stands so many behind the reader's place; behind the end
-// it is of no kind.
-func (r *reader) token(further int) api.Token {
-	if r.at+further < len(r.list) {
-		return r.list[r.at+further]
-	}
-	return api.Token{}
-}
-
-func (r *reader) stands(kind int, text string) bool {
-	t := r.token(0)
-	return t.Kind == kind && t.Text == text
-}
-
-// take goes past a token, if it is that one.
-func (r *reader) take(kind int, text string) bool {
-	if !r.stands(kind, text) {
-		return false
-	}
-	r.at++
-	return true
-}
-
-// must goes past a token that has to be that one.
-func (r *reader) must(kind int, text string) {
-	if !r.take(kind, text) {
-		r.throw(api.ErrSyntax)
-	}
-}
-
-// throw gives up at the reader's place.
-func (r *reader) throw(e api.Errno) {
-	if r.at < len(r.list) {
-		panic(&api.Fault{At: r.list[r.at].At, Err: e})
-	}
-	panic(&api.Fault{At: r.list[len(r.list)-1].At + 1, Err: e})
 }
