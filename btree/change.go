@@ -3,6 +3,7 @@ package btree
 import (
 	"quarry/api"
 	"quarry/node"
+	"quarry/throw"
 )
 
 // pieceRoom is how many bytes of a long value one piece has.
@@ -29,11 +30,10 @@ type sheet struct {
 // do does the work, which answers a root, and writes what that has laid out; with
 // an error the pages that were taken are free again.
 func (c *change) do(work func() int) (int, api.Errno) {
-	root := 0
-	e := caught(func() {
+	root, e := throw.Caught(func() int {
 		made := work()
 		c.write()
-		root = made
+		return made
 	})
 	if e != api.OK {
 		for _, s := range c.sheets {
@@ -45,9 +45,7 @@ func (c *change) do(work func() int) (int, api.Errno) {
 
 func (c *change) write() {
 	for _, s := range c.sheets {
-		if e := c.pager.Write(s.page, s.load); e != api.OK {
-			panic(e)
-		}
+		throw.If(c.pager.Write(s.page, s.load))
 	}
 }
 
@@ -75,9 +73,7 @@ func (c *change) newCell(key, value []byte) node.Cell {
 	for end := len(value); end > 0; {
 		start := (end - 1) / pieceRoom * pieceRoom
 		load, e := node.Piece(value[start:end], next)
-		if e != api.OK {
-			panic(e)
-		}
+		throw.If(e)
 		next = c.place(load)
 		end = start
 	}

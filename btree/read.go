@@ -7,6 +7,7 @@ import (
 
 	"quarry/api"
 	"quarry/node"
+	"quarry/throw"
 )
 
 // deepest is how many nodes below the root one may lie. It ends the way down
@@ -31,9 +32,7 @@ func (s *Space) node(page, depth int) node.Node {
 		panic(api.ErrCorrupt)
 	}
 	n, e := node.Decode(s.load(page))
-	if e != api.OK {
-		panic(e)
-	}
+	throw.If(e)
 	return n
 }
 
@@ -86,9 +85,7 @@ func (s *Space) pieces(c node.Cell, each func(page int, data []byte)) {
 	left := c.Size
 	for page := c.Over; page != 0; {
 		data, next, e := node.Open(s.load(page))
-		if e != api.OK {
-			panic(e)
-		}
+		throw.If(e)
 		left -= len(data)
 		if left < 0 {
 			panic(api.ErrCorrupt)

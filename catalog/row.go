@@ -5,6 +5,7 @@ import (
 
 	"quarry/api"
 	"quarry/rows"
+	"quarry/throw"
 )
 
 // What a row of the catalog says it is.
@@ -33,7 +34,7 @@ func rowsOf(s api.Schema) []row {
 
 func rowOf(id int, values []api.Value) row {
 	value, e := rows.Encode(values)
-	must(e)
+	throw.If(e)
 	return row{key: keyOf(id), value: value}
 }
 

@@ -7,6 +7,7 @@ import (
 	"quarry/btree"
 	"quarry/cursor"
 	"quarry/pager"
+	"quarry/throw"
 )
 
 // tree is a tree in which a catalog lies.
@@ -31,7 +32,7 @@ func (t tree) each(do func(c *cursor.Cursor)) {
 		ahead = c.Key()
 		do(c)
 	}
-	must(e)
+	throw.If(e)
 }
 
 // rows is the catalog's rows.
@@ -45,7 +46,7 @@ func (t tree) rows() []row {
 
 func valueAt(c *cursor.Cursor) []byte {
 	value, e := c.Value()
-	must(e)
+	throw.If(e)
 	return value
 }
 
@@ -68,12 +69,12 @@ func (t tree) with(l []row) int {
 	root, e := t.root, api.OK
 	for _, key := range surplus {
 		root, _, e = t.space.Delete(root, key)
-		must(e)
+		throw.If(e)
 	}
 	for _, r := range l {
 		if _, lacks := missing[string(r.key)]; lacks {
 			root, e = t.space.Put(root, r.key, r.value)
-			must(e)
+			throw.If(e)
 		}
 	}
 	return root
