@@ -4,7 +4,7 @@ import (
 	"slices"
 
 	"quarry/api"
-	"quarry/expr"
+	"quarry/shape"
 )
 
 // place is what an expression may be made of where it stands.
@@ -67,7 +67,7 @@ func (p place) look(e *api.Expr) {
 	for i := range e.Args {
 		p.look(&e.Args[i])
 	}
-	if isNone(*e) {
+	if shape.None(*e) {
 		panic(api.ErrKind)
 	}
 	if e.Kind == api.ECol {
@@ -76,14 +76,6 @@ func (p place) look(e *api.Expr) {
 		return
 	}
 	e.Type = typeOf(*e)
-}
-
-// isNone tells whether an expression is none that can be written. Its operands,
-// which don't matter for that, are left out: a long chain would else be written
-// anew for each of its operators.
-func isNone(e api.Expr) bool {
-	e.Args = make([]api.Expr, len(e.Args))
-	return expr.Print(e) == ""
 }
 
 // column is the place of the column that an expression names.
